@@ -1,0 +1,217 @@
+package tests
+
+import (
+	"reflect"
+	"testing"
+
+	"loop.example/ashlar/impl"
+)
+
+// span is where a list lies, spare room included.
+type span struct {
+	from uintptr
+	end  uintptr
+}
+
+// spans is where all lists of something lie, and those within their spare room.
+func spans(x reflect.Value) []span {
+	var all []span
+	switch x.Kind() {
+	case reflect.Slice:
+		if x.Cap() == 0 {
+			return nil
+		}
+		all = append(all, span{x.Pointer(), x.Pointer() + uintptr(x.Cap())*x.Type().Elem().Size()})
+		whole := x.Slice3(0, x.Cap(), x.Cap())
+		for i := range whole.Len() {
+			all = append(all, spans(whole.Index(i))...)
+		}
+	case reflect.Struct:
+		for i := range x.NumField() {
+			all = append(all, spans(x.Field(i))...)
+		}
+	}
+	return all
+}
+
+// whole is a copy of something in which what stands in the spare room of a list is part of it.
+func whole(x reflect.Value) reflect.Value {
+	switch x.Kind() {
+	case reflect.Slice:
+		all := x.Slice3(0, x.Cap(), x.Cap())
+		y := reflect.MakeSlice(x.Type(), all.Len(), all.Len())
+		for i := range all.Len() {
+			y.Index(i).Set(whole(all.Index(i)))
+		}
+		return y
+	case reflect.Struct:
+		y := reflect.New(x.Type()).Elem()
+		for i := range x.NumField() {
+			y.Field(i).Set(whole(x.Field(i)))
+		}
+		return y
+	default:
+		return x
+	}
+}
+
+func sameWhole(x reflect.Value, before reflect.Value) bool {
+	return reflect.DeepEqual(whole(x).Interface(), before.Interface())
+}
+
+// roomy is a copy of something whose lists all have spare room, in which something stands.
+func roomy[T any](x T) T {
+	return roomyAny(reflect.ValueOf(x)).Interface().(T)
+}
+
+func roomyAny(x reflect.Value) reflect.Value {
+	switch x.Kind() {
+	case reflect.Slice:
+		y := reflect.MakeSlice(x.Type(), x.Len()+3, x.Len()+3)
+		for i := range y.Len() {
+			if i < x.Len() {
+				y.Index(i).Set(roomyAny(x.Index(i)))
+			} else {
+				y.Index(i).Set(litter(x.Type().Elem()))
+			}
+		}
+		return y.Slice(0, x.Len())
+	case reflect.Struct:
+		y := reflect.New(x.Type()).Elem()
+		for i := range x.NumField() {
+			y.Field(i).Set(roomyAny(x.Field(i)))
+		}
+		return y
+	default:
+		return x
+	}
+}
+
+// litter is something that is not nothing, to be seen if it is written over.
+func litter(t reflect.Type) reflect.Value {
+	y := reflect.New(t).Elem()
+	switch t.Kind() {
+	case reflect.Struct:
+		for i := range t.NumField() {
+			if t.Field(i).Type.Kind() != reflect.Slice {
+				y.Field(i).Set(litter(t.Field(i).Type))
+			}
+		}
+	case reflect.String:
+		y.SetString("litter")
+	case reflect.Int:
+		y.SetInt(77)
+	}
+	return y
+}
+
+// memory calls a function with arguments that have spare room, and asks that they stay as they are, and that what is answered lies elsewhere.
+func memory(t *testing.T, name string, f any, args ...any) {
+	t.Helper()
+	var in []reflect.Value
+	var before []reflect.Value
+	var taken []span
+	for _, a := range args {
+		x := roomyAny(reflect.ValueOf(a))
+		in = append(in, x)
+		before = append(before, whole(x))
+		taken = append(taken, spans(x)...)
+	}
+	out := reflect.ValueOf(f).Call(in)
+	for i, x := range in {
+		if !sameWhole(x, before[i]) {
+			t.Errorf("%s writes into argument %d: %+v, then %+v", name, i, before[i], whole(x))
+		}
+	}
+	for i, x := range out {
+		for _, s := range spans(x) {
+			for _, other := range taken {
+				if s.from < other.end && other.from < s.end {
+					t.Errorf("%s: answer %d shares memory", name, i)
+				}
+			}
+			taken = append(taken, s)
+		}
+	}
+}
+
+func TestMemoryOfValues(t *testing.T) {
+	all := append(ascendingValues(), wrongValues()[:len(wrongValues())-2]...)
+	other := list(num(1), list(text("x"), list()), null())
+	for _, v := range all {
+		memory(t, "ValueOk", impl.ValueOk, v)
+		memory(t, "ValuePut", impl.ValuePut, v)
+		memory(t, "ValueGet", impl.ValueGet, impl.ValuePut(v))
+		memory(t, "ValueSame", impl.ValueSame, v, other)
+		memory(t, "ValueSame", impl.ValueSame, v, v)
+		memory(t, "ValueOrder", impl.ValueOrder, v, other)
+		memory(t, "ValueEqual", impl.ValueEqual, v, other)
+		memory(t, "ValueLess", impl.ValueLess, v, other)
+	}
+}
+
+func TestMemoryOfGraphs(t *testing.T) {
+	labels, given := []string{"A", "P"}, []impl.Prop{prop("b", list(num(1), list(text("x")))), prop("c", text("y"))}
+	graphs := someGraphs(t)[:16]
+	for name, g := range wrongGraphs() {
+		if name != "prop holds itself" {
+			graphs = append(graphs, g)
+		}
+	}
+	for _, g := range graphs {
+		memory(t, "GraphOk", impl.GraphOk, g)
+		memory(t, "NodeAdd", impl.NodeAdd, g, labels, given)
+		memory(t, "NodeAdd", impl.NodeAdd, g, []string{"P", "A"}, given)
+		for _, id := range append(nodeIds(g), -1) {
+			memory(t, "EdgeAdd", impl.EdgeAdd, g, "K", id, id, given)
+			memory(t, "EdgeAdd", impl.EdgeAdd, g, "9", id, id, given)
+			memory(t, "NodeDrop", impl.NodeDrop, g, id, true)
+			memory(t, "NodeDrop", impl.NodeDrop, g, id, false)
+			memory(t, "LabelSet", impl.LabelSet, g, id, "B", true)
+			memory(t, "LabelSet", impl.LabelSet, g, id, "A", false)
+			memory(t, "EdgesOf", impl.EdgesOf, g, id, 0, "")
+			memory(t, "EdgesOf", impl.EdgesOf, g, id, 1, "K")
+		}
+		for _, id := range append(edgeIds(g), -1) {
+			memory(t, "EdgeDrop", impl.EdgeDrop, g, id)
+		}
+		for _, v := range append(allRefs(g), nodeRef(77), list(nodeRef(1))) {
+			for _, name := range []string{"a", "b", "b1", "n", "name", "zZ9", "zz"} {
+				memory(t, "PropGet", impl.PropGet, g, v, name)
+				memory(t, "PropSet", impl.PropSet, g, v, name, given[0].Value)
+				memory(t, "PropSet", impl.PropSet, g, v, name, null())
+			}
+		}
+		memory(t, "NodesWith", impl.NodesWith, g, "")
+		memory(t, "NodesWith", impl.NodesWith, g, "P")
+	}
+}
+
+func TestMemoryOfRules(t *testing.T) {
+	for _, rules := range append(someRules(), wrongRules()...) {
+		memory(t, "RulesOk", impl.RulesOk, rules)
+		for _, g := range someGraphs(t)[:10] {
+			memory(t, "RulesHold", impl.RulesHold, g, rules)
+			memory(t, "RulesBroken", impl.RulesBroken, g, rules)
+		}
+	}
+	for _, g := range someGraphs(t)[:16] {
+		for _, v := range append(ascendingValues(), num(2), text("x")) {
+			memory(t, "FindBy", impl.FindBy, g, "P", "n", v)
+		}
+	}
+}
+
+// The test's own eyes are open: memory that is shared, written into or behind its end is seen.
+func TestMemoryIsSeen(t *testing.T) {
+	a := roomy([]impl.Value{num(1)})
+	before := whole(reflect.ValueOf(a))
+	_ = append(a, num(2))
+	if sameWhole(reflect.ValueOf(a), before) {
+		t.Error("what is written behind the end is not seen")
+	}
+	one, two := spans(reflect.ValueOf(a)), spans(reflect.ValueOf(a[1:]))
+	if len(one) == 0 || len(two) == 0 || one[0].end != two[0].end {
+		t.Error("spare room is not seen")
+	}
+}
