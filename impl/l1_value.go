@@ -77,10 +77,10 @@ func ValueEqual(a Value, b Value) Value {
 func ValueLess(a Value, b Value) Value {
 	x, okX := termOf(a)
 	y, okY := termOf(b)
-	if !okX || !okY || !mayBeLess(a.Kind, b.Kind) {
+	if !okX || !okY {
 		return Value{}
 	}
-	return truth(x.order(y) < 0).value()
+	return lessTerms(x, y).value()
 }
 
 // ValuePut writes a value.
@@ -398,8 +398,15 @@ func equalLists(a listTerm, b listTerm) term {
 	return all
 }
 
-func mayBeLess(a int, b int) bool {
-	return a == b && (a == IsNum || a == IsText || a == IsBool)
+// lessTerms is yes, no, or nothing, if one kind of terms has no less, or they are of two kinds.
+func lessTerms(a term, b term) term {
+	switch a.(type) {
+	case numTerm, textTerm, boolTerm:
+		if orderKinds(a, b) == 0 {
+			return truth(a.order(b) < 0)
+		}
+	}
+	return nullTerm{}
 }
 
 // readTerm reads the term that a text begins with, and tells what stands behind it.

@@ -2,6 +2,7 @@ package tests
 
 import (
 	"reflect"
+	"slices"
 	"testing"
 
 	"loop.example/ashlar/impl"
@@ -199,6 +200,35 @@ func TestMemoryOfRules(t *testing.T) {
 		for _, v := range append(ascendingValues(), num(2), text("x")) {
 			memory(t, "FindBy", impl.FindBy, g, "P", "n", v)
 		}
+	}
+}
+
+func TestMemoryOfExpressions(t *testing.T) {
+	all := slices.Concat(everyKind(), someExprs(t, 150), endingExprs())
+	for _, s := range []string{"", "a", "(a = 'x') [1, 2]", "a ?", "'"} {
+		memory(t, "Words", impl.Words, s)
+	}
+	for _, s := range []string{"x", "l", "$q", "a.o", "(l + $q)", "(l + [])", "[1, [2]]", "([1] + [[2]])", "none"} {
+		memory(t, "ExprEval", impl.ExprEval, smallGraph(), evalRow(), evalGiven(), expr(t, s))
+	}
+	for _, e := range all {
+		memory(t, "ExprOk", impl.ExprOk, e)
+		memory(t, "ExprPut", impl.ExprPut, e)
+		memory(t, "ExprGet", impl.ExprGet, impl.ExprPut(e))
+		memory(t, "ExprNames", impl.ExprNames, e)
+		memory(t, "ExprEval", impl.ExprEval, smallGraph(), evalRow(), evalGiven(), e)
+	}
+}
+
+func TestMemoryOfQuestions(t *testing.T) {
+	all := append(someQuestions(t, 150), nil, []impl.Clause{end(), end()}, []impl.Clause{where(variable("none")), end()}, clauses())
+	for _, q := range all {
+		memory(t, "QueryCheck", impl.QueryCheck, q)
+		memory(t, "QueryPut", impl.QueryPut, q)
+		memory(t, "QueryGet", impl.QueryGet, impl.QueryPut(q))
+		memory(t, "QueryGiven", impl.QueryGiven, q)
+		memory(t, "QueryWrites", impl.QueryWrites, q)
+		memory(t, "QueryNames", impl.QueryNames, q)
 	}
 }
 
