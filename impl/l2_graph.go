@@ -479,11 +479,16 @@ func replaced[T any](list []T, at int, there bool, put []T) []T {
 func (n *net) nodesWith(label string) []int {
 	var ids []int
 	for _, id := range n.nodes.ids {
-		if label == "" || slices.Contains(n.nodes.rows[id].Labels, label) {
+		if hasLabel(n.nodes.rows[id], label) {
 			ids = append(ids, id)
 		}
 	}
 	return ids
+}
+
+// hasLabel says whether a node has a label; each has the empty one.
+func hasLabel(node Node, label string) bool {
+	return label == "" || slices.Contains(node.Labels, label)
 }
 
 func (n *net) edgesOf(id int, way int, kind string) []int {

@@ -232,6 +232,29 @@ func TestMemoryOfQuestions(t *testing.T) {
 	}
 }
 
+func TestMemoryOfAnswers(t *testing.T) {
+	l := list(num(1), list(text("x")))
+	row, given := []impl.Cell{cell("z", l), cell("y", l)}, []impl.Cell{cell("l", list(l, l, null())), cell("p", num(2))}
+	for _, g := range matchGraphs(4) {
+		for _, paths := range append(shapes(), wrongPaths()[:20]...) {
+			memory(t, "Matches", impl.Matches, g, row, given, paths)
+		}
+	}
+	orders := []impl.Order{{Name: "x", Down: true}}
+	for _, table := range append(someTables(30), wrongTables()[:9]...) {
+		memory(t, "Arrange", impl.Arrange, table, true, orders, 1, -1)
+		memory(t, "Arrange", impl.Arrange, table, false, orders[:0], -1, 3)
+		memory(t, "TablePut", impl.TablePut, table)
+	}
+	for _, s := range someSpoken(t, 600) {
+		memory(t, "Run", impl.Run, s.g, s.rules, s.q, spokenGiven())
+	}
+	for _, s := range []string{"UNWIND $l AS x UNWIND [1, 2] AS y RETURN x AS x, x AS z, $l AS l, [[1]] AS c", "MATCH (a) SET a.o = [[1]], a.k = a.o RETURN a.o AS o, a.k AS k", "CREATE (a {n: [[1]]}), (b {n: a.n}) RETURN a.n AS n, b.n AS m", "MATCH (a) DETACH DELETE a RETURN a AS a", "MATCH (a) RETURN a.o AS o, a.n AS n", "RETURN $none AS x", "RETURN [1] AS x, [1] AS y"} {
+		memory(t, s, impl.Run, smallGraph(), []impl.Rule(nil), question(t, s), given)
+		memory(t, s, impl.Run, smallGraph(), []impl.Rule{{Label: "9"}}, question(t, s), given)
+	}
+}
+
 // The test's own eyes are open: memory that is shared, written into or behind its end is seen.
 func TestMemoryIsSeen(t *testing.T) {
 	a := roomy([]impl.Value{num(1)})
