@@ -329,37 +329,52 @@ func TestPromise45WhatMayBeMissing(t *testing.T) {
 	}
 }
 
-// someLists is lists of numbers, and of nothing here and there.
+// someLists is lists of numbers, of nothing here and there, and, seldom, of what is no number.
 func someLists(count int) [][]impl.Value {
-	d := dice(59)
-	lists := [][]impl.Value{nil, {num(impl.NumMax)}, {num(-impl.NumMax), null()}, {num(impl.NumMax), num(1)}, {num(-1), num(-impl.NumMax)}, {num(impl.NumMax), num(impl.NumMax), num(-impl.NumMax)}, {null(), null()}}
+	d, most, least := dice(59), num(impl.NumMax), num(-impl.NumMax)
+	lists := [][]impl.Value{nil, {most}, {least, null()}, {most, num(1)}, {num(-1), least}, {most, num(1), num(-1)}, {least, num(-1), num(1)}, {most, num(-1), num(1)}, {most, least, most}, {null(), null()}, {most, num(1), text("a")}, {most, text("a"), num(1)}, {least, num(-1), yes()}, {least, null(), list(num(1)), num(-1)}}
 	for range count {
 		var one []impl.Value
 		for range d.roll(impl.ListMax + 1) {
-			one = append(one, []impl.Value{num(d.roll(20) - 10), num(d.roll(20) - 10), num(impl.NumMax / 2), null()}[d.roll(4)])
+			one = append(one, []impl.Value{num(d.roll(20) - 10), num(d.roll(20) - 10), num(d.roll(20) - 10), num(impl.NumMax / 2), num(impl.NumMax / 2), num(-impl.NumMax), num(-1), null(), null(), text("x"), yes(), list(num(1))}[d.roll(9+d.roll(4))])
 		}
 		lists = append(lists, one)
 	}
 	return lists
 }
 
+// oneByOne is the sum of a list, and a code as soon as there is one.
+func oneByOne(values []impl.Value) (int, int) {
+	total := 0
+	for _, v := range values {
+		if v.Kind != impl.IsNum && v.Kind != impl.IsNull {
+			return 0, impl.ErrType
+		}
+		if total += v.Num; total > impl.NumMax || total < -impl.NumMax {
+			return 0, impl.ErrNum
+		}
+	}
+	return total, 0
+}
+
 // Promise 46: what is summed up is summed up one by one.
 func TestPromise46SumAndCount(t *testing.T) {
-	for _, one := range someLists(300) {
-		total := 0
-		for _, v := range one {
-			total += v.Num
+	codes := map[int]int{}
+	for _, one := range someLists(600) {
+		total, wantCode := oneByOne(one)
+		want := impl.Table{}
+		if wantCode == 0 {
+			want = tableOf("s c t", values(num(total), num(len(one)), num(total)))
 		}
-		_, table, code := run(t, impl.Graph{}, nil, "UNWIND $l AS x RETURN sum(x) AS s, count(*) AS c, sum((x + 0)) AS t", cell("l", list(one...)))
-		if total > impl.NumMax || total < -impl.NumMax {
-			if code != impl.ErrNum || !same(table, impl.Table{}) {
-				t.Fatalf("%+v: %+v %d", one, table, code)
+		for _, s := range []string{"RETURN sum(x) AS s, count(*) AS c, sum(x) AS t", "WITH sum(x) AS s, count(*) AS c, sum(x) AS t RETURN s AS s, c AS c, t AS t"} {
+			if _, table, code := run(t, impl.Graph{}, nil, "UNWIND $l AS x "+s, cell("l", list(one...))); code != wantCode || !same(table, want) {
+				t.Fatalf("%s of %+v: %+v %d, not %+v %d", s, one, table, code, want, wantCode)
 			}
-			continue
 		}
-		if code != 0 || !same(table, tableOf("s c t", values(num(total), num(len(one)), num(total)))) {
-			t.Fatalf("%+v: %+v %d", one, table, code)
-		}
+		codes[wantCode]++
+	}
+	if codes[0] < 100 || codes[impl.ErrType] < 50 || codes[impl.ErrNum] < 50 {
+		t.Error(codes)
 	}
 }
 

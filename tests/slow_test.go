@@ -297,8 +297,7 @@ func sumsUp(i impl.Item) bool {
 func isNoSum(i impl.Item) bool { return !sumsUp(i) }
 
 func (s *slow) columns(rows [][]impl.Cell, c impl.Clause) [][]impl.Cell {
-	var lines [][]impl.Value
-	var groups [][][]impl.Cell
+	var lines, totals [][]impl.Value
 	any := slices.ContainsFunc(c.Items, sumsUp)
 	for _, row := range rows {
 		line := make([]impl.Value, len(c.Items))
@@ -309,35 +308,40 @@ func (s *slow) columns(rows [][]impl.Cell, c impl.Clause) [][]impl.Cell {
 		}
 		at := slices.IndexFunc(lines, func(other []impl.Value) bool { return any && same(line, other) })
 		if at < 0 {
-			at, lines, groups = len(lines), append(lines, line), append(groups, nil)
+			at, lines, totals = len(lines), append(lines, line), append(totals, beginning(c.Items, line))
 		}
-		groups[at] = append(groups[at], row)
-	}
-	if len(lines) == 0 && !slices.ContainsFunc(c.Items, isNoSum) {
-		lines, groups = [][]impl.Value{make([]impl.Value, len(c.Items))}, [][][]impl.Cell{nil}
-	}
-	for at := range lines {
 		for i, item := range c.Items {
-			switch item.Expr.Kind {
-			case impl.ExprCount:
-				lines[at][i] = num(len(groups[at]))
-			case impl.ExprSum:
-				lines[at][i] = s.sum(groups[at], item.Expr.Parts[0])
+			if sumsUp(item) {
+				totals[at][i].Num += s.more(row, item.Expr)
+				must(impl.ValueOk(totals[at][i]), impl.ErrNum)
 			}
 		}
 	}
-	return namedRows(c, chosenLines(c, lines))
+	if len(rows) == 0 && !slices.ContainsFunc(c.Items, isNoSum) {
+		totals = [][]impl.Value{beginning(c.Items, make([]impl.Value, len(c.Items)))}
+	}
+	return namedRows(c, chosenLines(c, totals))
 }
 
-func (s *slow) sum(rows [][]impl.Cell, e impl.Expr) impl.Value {
-	total := num(0)
-	for _, row := range rows {
-		v := s.eval(row, e)
-		must(v.Kind == impl.IsNull || v.Kind == impl.IsNum, impl.ErrType)
-		total.Num += v.Num
+// beginning is a line with 0 for what is summed up.
+func beginning(items []impl.Item, line []impl.Value) []impl.Value {
+	line = slices.Clone(line)
+	for i, item := range items {
+		if sumsUp(item) {
+			line[i] = num(0)
+		}
 	}
-	must(impl.ValueOk(total), impl.ErrNum)
-	return total
+	return line
+}
+
+// more is what a row adds to a count or to a sum.
+func (s *slow) more(row []impl.Cell, e impl.Expr) int {
+	if e.Kind == impl.ExprCount {
+		return 1
+	}
+	v := s.eval(row, e.Parts[0])
+	must(v.Kind == impl.IsNull || v.Kind == impl.IsNum, impl.ErrType)
+	return v.Num
 }
 
 // chosenLines takes the first line that no other one is ahead of, again and again.
