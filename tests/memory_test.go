@@ -109,11 +109,21 @@ func litter(t reflect.Type) reflect.Value {
 // memory calls a function with arguments that have spare room, and asks that they stay as they are, and that what is answered lies elsewhere.
 func memory(t *testing.T, name string, f any, args ...any) {
 	t.Helper()
+	var in []any
+	for _, a := range args {
+		in = append(in, roomyAny(reflect.ValueOf(a)).Interface())
+	}
+	memoryAsItIs(t, name, f, in...)
+}
+
+// memoryAsItIs does so with the arguments themselves, which may share memory with each other.
+func memoryAsItIs(t *testing.T, name string, f any, args ...any) {
+	t.Helper()
 	var in []reflect.Value
 	var before []reflect.Value
 	var taken []span
 	for _, a := range args {
-		x := roomyAny(reflect.ValueOf(a))
+		x := reflect.ValueOf(a)
 		in = append(in, x)
 		before = append(before, whole(x))
 		taken = append(taken, spans(x)...)
@@ -252,6 +262,82 @@ func TestMemoryOfAnswers(t *testing.T) {
 	for _, s := range []string{"UNWIND $l AS x UNWIND [1, 2] AS y RETURN x AS x, x AS z, $l AS l, [[1]] AS c", "MATCH (a) SET a.o = [[1]], a.k = a.o RETURN a.o AS o, a.k AS k", "CREATE (a {n: [[1]]}), (b {n: a.n}) RETURN a.n AS n, b.n AS m", "MATCH (a) DETACH DELETE a RETURN a AS a", "MATCH (a) RETURN a.o AS o, a.n AS n", "RETURN $none AS x", "RETURN [1] AS x, [1] AS y"} {
 		memory(t, s, impl.Run, smallGraph(), []impl.Rule(nil), question(t, s), given)
 		memory(t, s, impl.Run, smallGraph(), []impl.Rule{{Label: "9"}}, question(t, s), given)
+	}
+}
+
+// memoryOfStore asks all functions of a store.
+func memoryOfStore(t *testing.T, with func(t *testing.T, name string, f any, args ...any), s impl.Store) {
+	t.Helper()
+	l := list(num(1), text("x"))
+	given := []impl.Cell{cell("l", list(l, l)), cell("p", l)}
+	with(t, "StoreNew", impl.StoreNew, s.Rules)
+	with(t, "StoreOk", impl.StoreOk, s)
+	with(t, "TxBegin", impl.TxBegin, s)
+	for _, text := range []string{"CREATE (a:P {n: $l, o: $p}) RETURN a.n AS n, $l AS l, $p AS p", "MATCH (a) SET a.k = $l RETURN a.k AS k, $l AS l", "MATCH (a) RETURN a.n AS n, $p AS p", "MATCH (a) DETACH DELETE a", "MATCH (a:none) SET a.n = 1", "CREATE", "RETURN $none AS x"} {
+		with(t, text, impl.StoreAsk, s, askOf(text, given...))
+		for _, id := range []int{0, 2, 3, 77} {
+			with(t, text, impl.TxAsk, s, id, askOf(text, given...))
+		}
+	}
+	for _, id := range []int{0, 1, 2, 3, 4, 77} {
+		with(t, "TxKeep", impl.TxKeep, s, id)
+		with(t, "TxBack", impl.TxBack, s, id)
+	}
+}
+
+// sharing is a store whose lists lie in each other's memory, as far as they may.
+func sharing(t *testing.T) impl.Store {
+	s := busyStore(t)
+	inner := list(text("x"))
+	s.Done[0].Given = []impl.Cell{cell("l", list(num(1), inner)), cell("k", inner), cell("j", list(inner, inner))}
+	s.Done[1].Given = append(s.Done[1].Given, s.Done[0].Given[1:]...)
+	s.Txs[1].Asks[1].Given = s.Done[0].Given
+	s.Txs[0].Asks = s.Done
+	s.Txs[0].Graph, s.Txs[2].Graph = s.Graph, s.Graph
+	return s
+}
+
+func TestMemoryOfStores(t *testing.T) {
+	stores := append(someStores(t, 3), busyStore(t), sharing(t), impl.Store{}, fullTx(t, impl.DoneMax-1, 1), impl.Store{State: 1}, impl.Store{Rules: []impl.Rule{{Label: "9"}}})
+	for _, cells := range wrongCells() {
+		if v := cells[len(cells)-1].Value; len(v.List) == 0 || v.List[0].List == nil || &v.List[0] != &v.List[0].List[0] {
+			late := busyStore(t)
+			late.Txs[0].Asks = []impl.Ask{askOf("none", cells...)}
+			stores = append(stores, late)
+		}
+	}
+	for _, s := range stores {
+		memoryOfStore(t, memory, s)
+	}
+	if !impl.StoreOk(sharing(t)) {
+		t.Error("what shares is not ok")
+	}
+	memoryOfStore(t, memoryAsItIs, sharing(t))
+}
+
+// What is given to who is too late may be of any depth, and may hold itself; it stays as it is, in memory of its own.
+func TestMemoryOfWhatIsNotOk(t *testing.T) {
+	deep := list()
+	for range 200000 {
+		deep = list(deep)
+	}
+	wide := list(num(1))
+	for range 64 {
+		wide = list(wide, wide)
+	}
+	for i, v := range []impl.Value{holdsItself(1), holdsItself(3), list(num(1), holdsItself(2), text("x")), deep, wide} {
+		s := busyStore(t)
+		s.Txs[0].Asks = []impl.Ask{askOf("none", cell("x", v), cell("y", num(1)))}
+		for what, do := range map[string]deed{"alone": {kind: doAlone, ask: askOf("CREATE (a)")}, "begin": {kind: doBegin}, "among": {kind: doAmong, id: 0, ask: askOf("CREATE (a)")}, "keep": {kind: doKeep, id: 2}, "back": {kind: doBack, id: 3}} {
+			got, _ := do.to(s)
+			if len(got.Txs) == 0 || len(got.Txs[0].Asks) == 0 || len(got.Txs[0].Asks[0].Given) != 2 {
+				t.Fatalf("%d, %s: %d under way", i, what, len(got.Txs))
+			}
+			x := got.Txs[0].Asks[0].Given[0].Value
+			if !impl.ValueSame(x, v) || &x.List[0] == &v.List[0] || &x.List[len(x.List)-1] == &v.List[len(v.List)-1] {
+				t.Errorf("%d, %s: it is another one, or lies in the same place", i, what)
+			}
+		}
 	}
 }
 
