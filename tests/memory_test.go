@@ -292,7 +292,8 @@ func sharing(t *testing.T) impl.Store {
 	s.Done[0].Given = []impl.Cell{cell("l", list(num(1), inner)), cell("k", inner), cell("j", list(inner, inner))}
 	s.Done[1].Given = append(s.Done[1].Given, s.Done[0].Given[1:]...)
 	s.Txs[1].Asks[1].Given = s.Done[0].Given
-	s.Txs[0].Asks = s.Done
+	wrong := list(inner, list(inner, num(impl.NumMax+1)), inner)
+	s.Txs[0].Asks = append(slices.Clone(s.Done), askOf("none", cell("x", wrong), cell("x", wrong), cell("9", list(wrong, wrong))))
 	s.Txs[0].Graph, s.Txs[2].Graph = s.Graph, s.Graph
 	return s
 }
