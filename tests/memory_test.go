@@ -342,6 +342,187 @@ func TestMemoryOfWhatIsNotOk(t *testing.T) {
 	}
 }
 
+// lateWith is a store with somebody who is too late, who was given values that are asked for nothing.
+func lateWith(t *testing.T, values ...impl.Value) impl.Store {
+	t.Helper()
+	s := busyStore(t)
+	s.Txs[0].Asks = nil
+	for i, v := range values {
+		s.Txs[0].Asks = append(s.Txs[0].Asks, askOf("none", cell("x", num(i)), cell("y", v)), askOf("none", cell("x", v), cell("x", v)))
+	}
+	return s
+}
+
+// eachList tells the lists within lists of values, each as often as it is met; one that holds itself is told, but not gone into, where it is met within itself.
+func eachList(values []impl.Value, do func(l []impl.Value, isWithinItself bool)) {
+	type frame struct {
+		list []impl.Value
+		at   int
+	}
+	within, open := []frame{{values, 0}}, map[*impl.Value]int{}
+	for len(within) > 0 {
+		last := &within[len(within)-1]
+		if last.at == len(last.list) {
+			if len(last.list) > 0 {
+				delete(open, &last.list[0])
+			}
+			within = within[:len(within)-1]
+			continue
+		}
+		l := last.list[last.at].List
+		last.at++
+		if len(l) == 0 {
+			continue
+		}
+		do(l, open[&l[0]] > 0)
+		if open[&l[0]] == 0 {
+			open[&l[0]]++
+			within = append(within, frame{l, 0})
+		}
+	}
+}
+
+// apart asks that no two lists of what was given share memory, with each other or with other ones, and that they are as many as they should be.
+func apart(t *testing.T, what string, s impl.Store, other map[*impl.Value]int, want int) {
+	t.Helper()
+	seen, count := map[*impl.Value]int{}, 0
+	for _, a := range s.Txs[0].Asks {
+		for _, c := range a.Given {
+			eachList([]impl.Value{c.Value}, func(l []impl.Value, isWithinItself bool) {
+				if isWithinItself {
+					return
+				}
+				for i := range l {
+					if seen[&l[i]] > 0 || other[&l[i]] > 0 {
+						t.Fatalf("%s: a list shares memory", what)
+					}
+				}
+				seen[&l[0]]++
+				count++
+			})
+		}
+	}
+	if count != want {
+		t.Errorf("%s: %d lists, not %d", what, count, want)
+	}
+}
+
+// No two lists of an answer share memory, however many places of an argument have one and the same.
+func TestMemoryOfListsThatAreOne(t *testing.T) {
+	one := list(num(1), text("x"))
+	flat := func(size int) impl.Value { return list(slices.Repeat([]impl.Value{one}, size)...) }
+	wide := one
+	for range 14 {
+		wide = list(wide, wide)
+	}
+	self := holdsItself(1)
+	ring := list(one, impl.Value{Kind: impl.IsList}, one)
+	ring.List[1].List = ring.List
+	both := list(slices.Concat(slices.Repeat([]impl.Value{one}, 1002), []impl.Value{self, ring, self, ring})...)
+	overlap := list(list(both.List[:3]...), impl.Value{Kind: impl.IsList, List: both.List[1:5]}, impl.Value{Kind: impl.IsList, List: both.List[:4]})
+	for what, v := range map[string]impl.Value{"flat": flat(1002), "a few": flat(3), "many": flat(20000), "lists of many": list(flat(700), flat(700), one, flat(0)), "wide": wide, "other kinds": {Kind: 77, Num: 5, Text: "x", List: flat(1500).List}, "some hold themselves": both, "overlapping": overlap} {
+		s, other, lists := lateWith(t, v, one, v), map[*impl.Value]int{}, 0
+		for _, a := range s.Txs[0].Asks {
+			for _, c := range a.Given {
+				eachList([]impl.Value{c.Value}, func(l []impl.Value, isWithinItself bool) {
+					if !isWithinItself {
+						other[&l[0]]++
+						lists++
+					}
+				})
+			}
+		}
+		if !impl.StoreOk(s) {
+			t.Fatal(what, " is not ok")
+		}
+		for name, do := range map[string]deed{"StoreAsk": {kind: doAlone, ask: askOf("CREATE (a)")}, "TxBegin": {kind: doBegin}, "TxAsk": {kind: doAmong, id: 0, ask: askOf("CREATE (a)")}, "TxKeep": {kind: doKeep, id: 2}, "TxBack": {kind: doBack, id: 3}} {
+			got, _ := do.to(s)
+			if len(got.Txs[0].Asks) < 6 || !impl.ValueSame(got.Txs[0].Asks[0].Given[1].Value, v) {
+				t.Fatalf("%s, %s: it is another one", what, name)
+			}
+			got.Txs[0].Asks = got.Txs[0].Asks[:6]
+			apart(t, what+", "+name, got, other, lists)
+		}
+		got, _, _ := impl.TalkDo(s, talkOf(impl.TalkReady, -1), msgRun("CREATE (a)"))
+		apart(t, what+", TalkDo", got, other, lists)
+	}
+}
+
+func TestMemoryOfTalks(t *testing.T) {
+	l := list(num(1), list(text("x")))
+	given := []impl.Cell{cell("l", list(l.List[1], l.List[1])), cell("p", l)}
+	msgs := []impl.Msg{msgHello("a"), msgRun("CREATE (a:P {n: $l, o: $p}) RETURN a.n AS n, $l AS l, $p AS p", given...), msgRun("MATCH (a) SET a.k = $l", given...), msgRun("RETURN $none AS x", given...), msgRun("x", append(given, given...)...), msgPull(1), msgPull(2), msgPull(60), {}}
+	for _, kind := range bareKinds() {
+		msgs = append(msgs, msgOf(kind))
+	}
+	rows := impl.Talk{Mode: impl.TalkFlow, Tx: 2, Table: tableOf("x y", values(l, l), values(l, list(l.List[1])), values(list(), null()), values(l, l)), At: 1}
+	if !impl.TalkOk(busyStore(t), rows) || !impl.TalkOk(sharing(t), rows) {
+		t.Error("what shares is not ok")
+	}
+	for i, m := range msgs {
+		if impl.MsgOk(m) != (i != 4 && i != 8) {
+			t.Errorf("%d: %+v", i, m)
+		}
+		memory(t, "MsgOk", impl.MsgOk, m)
+		for _, s := range []impl.Store{busyStore(t), sharing(t), {}, {State: 1}} {
+			for _, talk := range []impl.Talk{talkOf(impl.TalkFresh, -1), talkOf(impl.TalkReady, -1), talkOf(impl.TalkReady, 2), talkOf(impl.TalkReady, 0), talkOf(impl.TalkFailed, 3), talkOf(impl.TalkOver, -1), rows, flowOf(-1, 2), {}} {
+				memory(t, "TalkDo", impl.TalkDo, s, talk, m)
+				memoryAsItIs(t, "TalkDo as it is", impl.TalkDo, s, talk, m)
+				memory(t, "TalkOk", impl.TalkOk, s, talk)
+			}
+		}
+	}
+	play := append(msgs[:3:3], msgPull(1), msgPull(1), msgRun("MATCH (a) RETURN a.n AS n, a.o AS o, $l AS l", given...), msgPull(1), msgOf(impl.MsgBegin), msgRun("CREATE (a {n: $l}) RETURN a.n AS n", given...))
+	memory(t, "TalkPlay", impl.TalkPlay, nameRule(), play)
+	memory(t, "TalkPlay", impl.TalkPlay, []impl.Rule{{Label: "9"}}, play)
+	for i := range play {
+		memory(t, "TalkPlay", impl.TalkPlay, []impl.Rule(nil), play[:i])
+	}
+}
+
+func TestMemoryOfTheWire(t *testing.T) {
+	for _, m := range append(okMsgs(), msgRun("x", cell("a", list(list(num(1)), list(num(1)))), cell("9", num(1)))) {
+		memory(t, "MsgPut", impl.MsgPut, m)
+		memory(t, "MsgGet", impl.MsgGet, impl.MsgPut(m))
+	}
+	for s, r := range okReplies() {
+		memory(t, "ReplyFine", impl.ReplyFine, r)
+		memory(t, "ReplyPut", impl.ReplyPut, r)
+		memory(t, "ReplyGet", impl.ReplyGet, s)
+	}
+	for _, r := range wrongReplies()[:23] {
+		memory(t, "ReplyFine", impl.ReplyFine, r)
+		memory(t, "ReplyPut", impl.ReplyPut, r)
+	}
+}
+
+func TestMemoryOfServers(t *testing.T) {
+	come := framesOf(msgPull(1), msgOf(impl.MsgReset), msgRun("CREATE (a {n: $l, o: $l}) RETURN a.n AS n, a.o AS o", cell("l", list(list(num(1))))), msgPull(1), msgRun("MATCH (a) RETURN a.n AS n"))
+	events := []impl.Event{{Text: come}, {Link: 1, Text: come}, {Link: 2, Text: frameOf(msgOf(impl.MsgReset)) + come}, {Cut: true}, {Link: 1, Cut: true}, {Link: 7}, {Text: ""}, {Text: "x"}}
+	servers := []impl.Server{busyServer(t), {}, newServer(t, 2, "a", "b")}
+	one := busyServer(t)
+	one.Homes[1].Store.Graph, one.Homes[1].Store.Done, one.Homes[1].Store.State = one.Homes[0].Store.Graph, one.Homes[0].Store.Done, one.Homes[0].Store.State
+	one.Links[2].Talk = one.Links[0].Talk
+	one.Links[2].Talk.Tx = -1
+	if !impl.ServerOk(one) {
+		t.Error("what shares is not ok")
+	}
+	for _, s := range append(servers, one) {
+		memory(t, "ServerOk", impl.ServerOk, s)
+		for _, e := range events {
+			memory(t, "ServerDo", impl.ServerDo, s, e)
+			memoryAsItIs(t, "ServerDo as it is", impl.ServerDo, s, e)
+		}
+	}
+	names := []string{"home", "away"}
+	memory(t, "ServerNew", impl.ServerNew, names, nameRule(), 3)
+	memory(t, "ServerNew", impl.ServerNew, names, nameRule(), 4)
+	list := append(events, impl.Event{Text: framesOf(msgHello("home"))}, impl.Event{Cut: true}, impl.Event{Text: framesOf(msgHello("home"), msgOf(impl.MsgBegin)) + come}, impl.Event{Link: 1, Text: frameOf(msgHello("home")) + come})
+	memory(t, "ServerPlay", impl.ServerPlay, names, nameRule(), 3, list)
+	memory(t, "ServerPlay", impl.ServerPlay, names, nameRule(), 0, list)
+	memory(t, "Session", impl.Session, []string{"0 hello home", "0 run RETURN 1 AS x", "x", "1 -"})
+}
+
 // The test's own eyes are open: memory that is shared, written into or behind its end is seen.
 func TestMemoryIsSeen(t *testing.T) {
 	a := roomy([]impl.Value{num(1)})
